@@ -1,0 +1,227 @@
+package tests
+
+import (
+	"go/ast"
+	"go/parser"
+	"go/token"
+	"go/types"
+	"path/filepath"
+	"testing"
+)
+
+// program is what the package impl is made of.
+type program struct {
+	names []string
+	files []*ast.File
+	set   *token.FileSet
+	info  types.Info
+}
+
+// readProgram reads the package impl. Its types can be told without any other
+// package, since it imports none.
+func readProgram(t *testing.T) program {
+	p := program{set: token.NewFileSet(), info: types.Info{Uses: map[*ast.Ident]types.Object{}}}
+	names, err := filepath.Glob("../impl/*.go")
+	if err != nil || len(names) == 0 {
+		t.Fatalf("no files of the program: %v", err)
+	}
+	for _, name := range names {
+		file, err := parser.ParseFile(p.set, name, nil, 0)
+		if err != nil {
+			t.Fatal(err)
+		}
+		p.names = append(p.names, filepath.Base(name))
+		p.files = append(p.files, file)
+	}
+	config := types.Config{}
+	if _, err := config.Check("impl", p.set, p.files, &p.info); err != nil {
+		t.Fatal(err)
+	}
+	return p
+}
+
+// TestLanguage looks for what the permitted part of Go does not have.
+func TestLanguage(t *testing.T) {
+	p := readProgram(t)
+	for _, file := range p.files {
+		for n := range ast.Preorder(file) {
+			if what := forbidden(n); what != "" {
+				t.Errorf("%v: %s", p.set.Position(n.Pos()), what)
+			}
+		}
+		for _, d := range file.Decls {
+			if what := forbiddenDeclaration(d); what != "" {
+				t.Errorf("%v: %s", p.set.Position(d.Pos()), what)
+			}
+		}
+		checkFunctionsAreCalled(t, p, file)
+	}
+}
+
+// forbiddenDeclaration tells what is wrong with a declaration of a file.
+func forbiddenDeclaration(d ast.Decl) string {
+	switch d := d.(type) {
+	case *ast.GenDecl:
+		if d.Tok == token.VAR {
+			return "a package-level variable"
+		}
+	case *ast.FuncDecl:
+		if d.Recv == nil && d.Name.Name == "init" {
+			return "func init"
+		}
+	}
+	return ""
+}
+
+// forbidden tells what is wrong with a part of a file.
+func forbidden(n ast.Node) string {
+	switch n := n.(type) {
+	case *ast.ImportSpec:
+		return "an import"
+	case *ast.InterfaceType, *ast.TypeSwitchStmt, *ast.TypeAssertExpr:
+		return "an interface"
+	case *ast.MapType:
+		return "a map"
+	case *ast.FuncLit:
+		return "a closure"
+	case *ast.GoStmt, *ast.ChanType, *ast.SendStmt, *ast.SelectStmt, *ast.DeferStmt:
+		return "a goroutine, channel, select or defer"
+	case *ast.BranchStmt:
+		if n.Tok == token.GOTO {
+			return "goto"
+		}
+	case *ast.FuncType:
+		if n.TypeParams != nil {
+			return "a generic function"
+		}
+	case *ast.TypeSpec:
+		if n.TypeParams != nil {
+			return "a generic type"
+		}
+	case *ast.SliceExpr:
+		if n.Slice3 {
+			return "a slice expression with three indexes"
+		}
+	case *ast.BasicLit:
+		if n.Kind == token.FLOAT || n.Kind == token.IMAG {
+			return "a float or a complex number"
+		}
+	case *ast.AssignStmt:
+		return forbiddenAssignment(n)
+	case *ast.BinaryExpr:
+		if isName(n.X, "nil") || isName(n.Y, "nil") {
+			return "a comparison with nil"
+		}
+	case *ast.Ident:
+		return forbiddenName(n.Name)
+	}
+	return ""
+}
+
+// forbiddenAssignment tells what is wrong with an assignment.
+func forbiddenAssignment(n *ast.AssignStmt) string {
+	for _, left := range n.Lhs {
+		if _, plain := left.(*ast.Ident); len(n.Lhs) > 1 && !plain {
+			return "an assignment of several values to elements or fields"
+		}
+	}
+	return ""
+}
+
+// forbiddenName tells what is wrong with a name.
+func forbiddenName(name string) string {
+	switch name {
+	case "any", "error", "recover", "panic", "cap", "unsafe":
+		return name
+	case "float32", "float64", "complex64", "complex128", "complex", "real", "imag":
+		return name
+	}
+	return ""
+}
+
+// isName reports whether an expression is a name.
+func isName(x ast.Expr, name string) bool {
+	id, ok := x.(*ast.Ident)
+	return ok && id.Name == name
+}
+
+// checkFunctionsAreCalled checks that each function that is named is called, or
+// declared, and so is no value, and that no type of a function stands elsewhere.
+func checkFunctionsAreCalled(t *testing.T, p program, file *ast.File) {
+	named := 0
+	called := 0
+	functionTypes := 0
+	declared := 0
+	for n := range ast.Preorder(file) {
+		switch n := n.(type) {
+		case *ast.Ident:
+			if p.isFunction(n) {
+				named++
+			}
+		case *ast.CallExpr:
+			if id := calledName(n); id != nil && p.isFunction(id) {
+				called++
+			}
+		case *ast.FuncType:
+			functionTypes++
+		case *ast.FuncDecl:
+			declared++
+		}
+	}
+	if named != called || functionTypes != declared {
+		t.Errorf("%s: a function, or a method, is used as a value", p.set.Position(file.Pos()).Filename)
+	}
+}
+
+// isFunction reports whether a name is that of a declared function or method.
+func (p program) isFunction(id *ast.Ident) bool {
+	_, ok := p.info.Uses[id].(*types.Func)
+	return ok
+}
+
+// calledName returns the name of what is called, nil if it has none.
+func calledName(n *ast.CallExpr) *ast.Ident {
+	switch f := n.Fun.(type) {
+	case *ast.Ident:
+		return f
+	case *ast.SelectorExpr:
+		return f.Sel
+	}
+	return nil
+}
+
+// TestWays looks for what the section "Ways" says of the chapters that are done:
+// bit sets of needs, and one pass over an order.
+func TestWays(t *testing.T) {
+	p := readProgram(t)
+	if !p.usesOperator("l1_graph.go", token.SHL) || !p.usesOperator("l1_graph.go", token.AND) {
+		t.Error("graphs have no bit sets of needs")
+	}
+	if !p.callsFunction("l2_weight.go", "TopOrder") {
+		t.Error("weights do not pass over an order")
+	}
+}
+
+// usesOperator reports whether a file has a binary operator.
+func (p program) usesOperator(name string, operator token.Token) bool {
+	for i, file := range p.files {
+		for n := range ast.Preorder(file) {
+			if b, ok := n.(*ast.BinaryExpr); ok && p.names[i] == name && b.Op == operator {
+				return true
+			}
+		}
+	}
+	return false
+}
+
+// callsFunction reports whether a file calls a function.
+func (p program) callsFunction(name string, function string) bool {
+	for i, file := range p.files {
+		for n := range ast.Preorder(file) {
+			if call, ok := n.(*ast.CallExpr); ok && p.names[i] == name && isName(call.Fun, function) {
+				return true
+			}
+		}
+	}
+	return false
+}
