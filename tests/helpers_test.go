@@ -331,3 +331,72 @@ func strangeNumbers(n int) []int {
 	const far = 1 << 62
 	return []int{-1, n, n + 1, -2, 63, 64, 65, impl.MaxTasks, far, -far, 2*far - 1, -2 * far}
 }
+
+// subsets returns all ascending lists of numbers of n tasks.
+func subsets(n int) [][]int {
+	lists := [][]int{}
+	for code := 0; code < 1<<n; code++ {
+		list := []int{}
+		for at := 0; at < n; at++ {
+			if code>>at&1 == 1 {
+				list = append(list, at)
+			}
+		}
+		lists = append(lists, list)
+	}
+	return lists
+}
+
+// listsOf returns all lists of up to a number of numbers that are in low..high.
+func listsOf(low int, high int, most int) [][]int {
+	lists := [][]int{{}}
+	longest := lists
+	for length := 1; length <= most; length++ {
+		longer := [][]int{}
+		for _, list := range longest {
+			for n := low; n <= high; n++ {
+				longer = append(longer, with(list, n))
+			}
+		}
+		lists = append(lists, longer...)
+		longest = longer
+	}
+	return lists
+}
+
+// with returns a list with numbers behind it, in its own memory.
+func with(list []int, n ...int) []int {
+	return append(append([]int{}, list...), n...)
+}
+
+// without returns the numbers of a list that are not those of another one.
+func without(list []int, others []int) []int {
+	rest := []int{}
+	for _, n := range list {
+		if !has(others, n) {
+			rest = append(rest, n)
+		}
+	}
+	return rest
+}
+
+// ascendingOf returns a list in order, each number once.
+func ascendingOf(list []int) []int {
+	sorted := []int{}
+	for n := 0; n <= greatest(list); n++ {
+		if has(list, n) {
+			sorted = append(sorted, n)
+		}
+	}
+	return sorted
+}
+
+// wrongNumbers returns lists that are no ascending numbers of n tasks, for n from
+// 2 on.
+func wrongNumbers(n int) [][]int {
+	lists := [][]int{{1, 0}, {0, 0}, {1, 1}, {0, 1, 1}, {0, 1, 0}, {-1, 0}, {0, -1}, {0, n}, {n, 0}, {0, 1, n}, make([]int, 5000)}
+	for _, strange := range strangeNumbers(n) {
+		lists = append(lists, []int{strange}, []int{0, strange}, []int{strange, 1})
+	}
+	return lists
+}

@@ -191,7 +191,8 @@ func calledName(n *ast.CallExpr) *ast.Ident {
 }
 
 // TestWays looks for what the section "Ways" says of the chapters that are done:
-// bit sets of needs, and one pass over an order.
+// bit sets of needs, one pass over an order, counts of open needs and a heap, and
+// a struct with counters. The heap is the program's own, since it imports nothing.
 func TestWays(t *testing.T) {
 	p := readProgram(t)
 	if !p.usesOperator("l1_graph.go", token.SHL) || !p.usesOperator("l1_graph.go", token.AND) {
@@ -200,6 +201,27 @@ func TestWays(t *testing.T) {
 	if !p.callsFunction("l2_weight.go", "TopOrder") {
 		t.Error("weights do not pass over an order")
 	}
+	if !p.callsFunction("l3_ready.go", "openNeeds") || !p.declaresStruct("l3_ready.go", "readyHeap") {
+		t.Error("ready tasks have no counts of open needs, or no heap")
+	}
+	if !p.declaresStruct("l4_pool.go", "poolCounter") {
+		t.Error("pools have no struct with counters")
+	}
+}
+
+// declaresStruct reports whether a file declares a struct with a name.
+func (p program) declaresStruct(name string, structure string) bool {
+	for i, file := range p.files {
+		for n := range ast.Preorder(file) {
+			spec, ok := n.(*ast.TypeSpec)
+			if !ok || p.names[i] != name || spec.Name.Name != structure {
+				continue
+			}
+			_, isStruct := spec.Type.(*ast.StructType)
+			return isStruct
+		}
+	}
+	return false
 }
 
 // usesOperator reports whether a file has a binary operator.

@@ -9,37 +9,77 @@ import (
 // mark is what no function may write over, and what no function returns.
 const mark = -77
 
-// guarded returns a graph whose slices have marked memory behind their ends, and
-// all of this memory.
-func guarded(g []impl.Task) ([]impl.Task, []impl.Task, [][]int) {
-	tasks := []impl.Task{}
-	needs := [][]int{}
-	for _, t := range g {
-		memory := append(append([]int{}, t.Needs...), mark, mark, mark)
-		needs = append(needs, memory)
-		t.Needs = memory[:len(t.Needs)]
-		tasks = append(tasks, t)
-	}
-	tasks = append(tasks, needing(mark), needing(mark))
-	return tasks[:len(g)], tasks, needs
+// arguments has all that functions are called with.
+type arguments struct {
+	g       []impl.Task
+	done    []int
+	room    []int
+	running []int
+	list    []int
+	at      int
+	workers int
 }
 
-// isGuarded reports whether memory is as guarded returned it.
-func isGuarded(g []impl.Task, tasks []impl.Task, needs [][]int) bool {
-	for i := range needs {
-		end := len(g[i].Needs)
-		if !same(needs[i][:end], g[i].Needs...) || !same(needs[i][end:], mark, mark, mark) {
+// memory has all memory of arguments, also behind the ends of their slices, and
+// what is to be in it.
+type memory struct {
+	tasks     []impl.Task
+	lists     [][]int
+	wantTasks []impl.Task
+	wantLists [][]int
+}
+
+// guard returns a list with marked memory behind its end, which it keeps.
+func (m *memory) guard(list []int) []int {
+	all := with(list, mark, mark, mark)
+	m.lists = append(m.lists, all)
+	m.wantLists = append(m.wantLists, with(all))
+	return all[:len(list)]
+}
+
+// guarded returns the arguments in marked memory, and this memory.
+func (a arguments) guarded() (arguments, *memory) {
+	m := &memory{}
+	for _, t := range a.g {
+		t.Needs = m.guard(t.Needs)
+		m.tasks = append(m.tasks, t)
+	}
+	m.tasks = append(m.tasks, needing(mark), needing(mark))
+	m.wantTasks = copyOf(m.tasks)
+	given := a
+	given.g = m.tasks[:len(a.g)]
+	given.done = m.guard(a.done)
+	given.room = m.guard(a.room)
+	given.running = m.guard(a.running)
+	given.list = m.guard(a.list)
+	return given, m
+}
+
+// isWhole reports whether nothing was written into the memory.
+func (m *memory) isWhole() bool {
+	for i := range m.lists {
+		if !same(m.lists[i], m.wantLists[i]...) {
 			return false
 		}
 	}
-	return sameGraphs(tasks[:len(g)], g) && sameGraphs(tasks[len(g):], []impl.Task{needing(mark), needing(mark)})
+	return sameGraphs(m.tasks, m.wantTasks)
 }
 
-// allLists returns the lists that all functions return.
-func allLists(g []impl.Task, at int) [][]int {
+// allLists returns the lists that all functions return, and calls the functions
+// that return none.
+func (a arguments) allLists() [][]int {
+	impl.ValidGraph(a.g)
+	impl.LongestTime(a.g)
+	impl.ValidDone(a.g, a.done)
+	impl.ValidRoom(a.room)
+	impl.RunsTogether(a.g, a.room, a.running)
+	impl.PoolTime(a.g, a.at, a.workers)
+	finished, _ := impl.FinishTask(a.g, a.done, a.at)
 	return [][]int{
-		impl.TopOrder(g), impl.StuckTasks(g), impl.AllNeeds(g, at), impl.AllUsers(g, at),
-		impl.HeadTimes(g), impl.TailTimes(g), impl.CriticalChain(g), impl.SlackTimes(g),
+		impl.TopOrder(a.g), impl.StuckTasks(a.g), impl.AllNeeds(a.g, a.at), impl.AllUsers(a.g, a.at),
+		impl.HeadTimes(a.g), impl.TailTimes(a.g), impl.CriticalChain(a.g), impl.SlackTimes(a.g),
+		impl.ReadyTasks(a.g, a.done), impl.ReadyOrder(a.g, a.done), finished, impl.WaitsFor(a.g, a.done, a.at),
+		impl.UsedUnits(a.g, a.running), impl.AdmitTasks(a.g, a.room, a.running, a.list, a.workers),
 	}
 }
 
@@ -48,39 +88,89 @@ func allGraphs() [][]impl.Task {
 	return append(append(validGraphs(), loopedGraphs()...), wrongGraphs()...)
 }
 
-func TestArgumentsStay(t *testing.T) {
+// allArguments returns arguments that are valid, and such that are not.
+func allArguments() []arguments {
+	list := []arguments{}
 	for _, g := range allGraphs() {
-		given, tasks, needs := guarded(g)
-		impl.ValidGraph(given)
-		impl.LongestTime(given)
 		for _, at := range []int{-1, 0, 1, 2, len(g) - 1, len(g)} {
-			allLists(given, at)
+			a := arguments{g: g, room: []int{4, 8, 4}, list: []int{0, 1}, at: at, workers: 4}
+			list = append(list, a)
+			a.done = []int{0}
+			a.running = []int{0, 2}
+			list = append(list, a)
+			a.running = []int{0}
+			a.list = []int{2, 1}
+			list = append(list, a)
 		}
-		if !isGuarded(g, tasks, needs) {
-			t.Errorf("a function writes into %v", g)
+	}
+	for i, c := range calls() {
+		a := arguments{g: c.g, room: c.room, running: c.running, list: c.list, workers: c.workers}
+		// Among all done lists of many graphs, some of each size are taken.
+		dones := doneLists(c.g)
+		a.done = dones[i*7%len(dones)]
+		ready := readyByNeeds(c.g, a.done)
+		if len(ready) > 0 {
+			a.at = ready[i%len(ready)]
+		}
+		list = append(list, a)
+	}
+	return append(list, strangeArguments()...)
+}
+
+// strangeArguments returns arguments that are wrong in one list.
+func strangeArguments() []arguments {
+	list := []arguments{}
+	g := workshop()
+	base := arguments{g: g, room: []int{8, 8, 8}, running: []int{2}, list: []int{6, 1}, workers: 3}
+	for _, wrong := range append(wrongRooms(), wrongNumbers(len(g))...) {
+		a := base
+		a.room = wrong
+		b := base
+		b.done = wrong
+		c := base
+		c.running = wrong
+		d := base
+		d.list = wrong
+		list = append(list, a, b, c, d)
+	}
+	return list
+}
+
+func TestArgumentsStay(t *testing.T) {
+	for _, a := range allArguments() {
+		given, m := a.guarded()
+		given.allLists()
+		if !m.isWhole() {
+			t.Errorf("a function writes into %v", a)
 		}
 	}
 }
 
 func TestAnswersAreNewMemory(t *testing.T) {
-	for _, g := range allGraphs() {
-		given, tasks, needs := guarded(g)
-		at := len(g) - 1
-		expected := allLists(copyOf(g), at)
-		for _, list := range allLists(given, at) {
-			for i := range list {
-				list[i] = mark
+	met := make([]bool, len(arguments{}.allLists()))
+	for _, a := range allArguments() {
+		given, m := a.guarded()
+		expected := arguments{g: copyOf(a.g), done: with(a.done), room: with(a.room), running: with(a.running), list: with(a.list), at: a.at, workers: a.workers}.allLists()
+		for i, list := range given.allLists() {
+			for k := range list {
+				list[k] = mark
+				met[i] = true
 			}
 			// This writes behind the end of the list, if there is memory.
 			_ = append(list, mark+1)
 		}
-		if !isGuarded(g, tasks, needs) {
-			t.Errorf("an answer is memory of %v", g)
+		if !m.isWhole() {
+			t.Errorf("an answer is memory of %v", a)
 		}
-		for i, list := range allLists(given, at) {
+		for i, list := range given.allLists() {
 			if !same(list, expected[i]...) {
-				t.Errorf("list %d of %v is kept between calls: %v", i, g, list)
+				t.Errorf("list %d of %v is kept between calls: %v", i, a, list)
 			}
+		}
+	}
+	for i := range met {
+		if !met[i] {
+			t.Errorf("list %d is always empty", i)
 		}
 	}
 }
