@@ -191,8 +191,9 @@ func calledName(n *ast.CallExpr) *ast.Ident {
 }
 
 // TestWays looks for what the section "Ways" says of the chapters that are done:
-// bit sets of needs, one pass over an order, counts of open needs and a heap, and
-// a struct with counters. The heap is the program's own, since it imports nothing.
+// bit sets of needs, one pass over an order, counts of open needs and a heap, a
+// struct with counters, a queue of events, and a search that goes into branches and
+// has a bound. The heap is the program's own, since it imports nothing.
 func TestWays(t *testing.T) {
 	p := readProgram(t)
 	if !p.usesOperator("l1_graph.go", token.SHL) || !p.usesOperator("l1_graph.go", token.AND) {
@@ -207,6 +208,30 @@ func TestWays(t *testing.T) {
 	if !p.declaresStruct("l4_pool.go", "poolCounter") {
 		t.Error("pools have no struct with counters")
 	}
+	if !p.declaresStruct("l5_schedule.go", "taskEnd") || !p.declaresStruct("l5_schedule.go", "endQueue") {
+		t.Error("schedules have no queue of events")
+	}
+	if !p.callsItself("l6_best.go", "bestOf") || !p.callsFunction("l6_best.go", "LeastTime") {
+		t.Error("the best schedule is not looked for in branches, or without a bound")
+	}
+}
+
+// callsItself reports whether a function or method of a file calls itself.
+func (p program) callsItself(name string, function string) bool {
+	for i, file := range p.files {
+		for _, d := range file.Decls {
+			f, ok := d.(*ast.FuncDecl)
+			if !ok || p.names[i] != name || f.Name.Name != function {
+				continue
+			}
+			for n := range ast.Preorder(f.Body) {
+				if call, ok := n.(*ast.CallExpr); ok && calledName(call) != nil && calledName(call).Name == function {
+					return true
+				}
+			}
+		}
+	}
+	return false
 }
 
 // declaresStruct reports whether a file declares a struct with a name.

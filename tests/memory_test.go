@@ -16,6 +16,7 @@ type arguments struct {
 	room    []int
 	running []int
 	list    []int
+	start   []int
 	at      int
 	workers int
 }
@@ -52,6 +53,7 @@ func (a arguments) guarded() (arguments, *memory) {
 	given.room = m.guard(a.room)
 	given.running = m.guard(a.running)
 	given.list = m.guard(a.list)
+	given.start = m.guard(a.start)
 	return given, m
 }
 
@@ -74,12 +76,19 @@ func (a arguments) allLists() [][]int {
 	impl.ValidRoom(a.room)
 	impl.RunsTogether(a.g, a.room, a.running)
 	impl.PoolTime(a.g, a.at, a.workers)
+	impl.ValidStarts(a.g, a.room, a.workers, a.start)
+	impl.EndTime(a.g, a.room, a.workers, a.start)
+	impl.LeastTime(a.g, a.room, a.workers)
+	impl.BestTime(a.g, a.room, a.workers)
+	impl.CountOrders(a.g)
 	finished, _ := impl.FinishTask(a.g, a.done, a.at)
 	return [][]int{
 		impl.TopOrder(a.g), impl.StuckTasks(a.g), impl.AllNeeds(a.g, a.at), impl.AllUsers(a.g, a.at),
 		impl.HeadTimes(a.g), impl.TailTimes(a.g), impl.CriticalChain(a.g), impl.SlackTimes(a.g),
 		impl.ReadyTasks(a.g, a.done), impl.ReadyOrder(a.g, a.done), finished, impl.WaitsFor(a.g, a.done, a.at),
 		impl.UsedUnits(a.g, a.running), impl.AdmitTasks(a.g, a.room, a.running, a.list, a.workers),
+		impl.PlanStarts(a.g, a.room, a.workers), impl.RunningAt(a.g, a.room, a.workers, a.start, a.at),
+		impl.OrderStarts(a.g, a.room, a.workers, a.list), impl.BestOrder(a.g, a.room, a.workers),
 	}
 }
 
@@ -114,7 +123,19 @@ func allArguments() []arguments {
 		}
 		list = append(list, a)
 	}
+	for _, table := range timetables() {
+		list = append(list, table.arguments())
+	}
+	for _, s := range searchShops() {
+		list = append(list, timetable{s, s.planByTimes()}.arguments())
+	}
 	return append(list, strangeArguments()...)
+}
+
+// arguments returns the timetable, with a time at which tasks run, and its tasks in
+// order.
+func (table timetable) arguments() arguments {
+	return arguments{g: table.g, room: table.room, list: readyOneByOne(table.g), start: table.start, at: greatest(table.start), workers: table.workers}
 }
 
 // strangeArguments returns arguments that are wrong in one list.
@@ -122,6 +143,7 @@ func strangeArguments() []arguments {
 	list := []arguments{}
 	g := workshop()
 	base := arguments{g: g, room: []int{8, 8, 8}, running: []int{2}, list: []int{6, 1}, workers: 3}
+	base.start = inTurn(g, allNumbers(g))
 	for _, wrong := range append(wrongRooms(), wrongNumbers(len(g))...) {
 		a := base
 		a.room = wrong
@@ -131,7 +153,9 @@ func strangeArguments() []arguments {
 		c.running = wrong
 		d := base
 		d.list = wrong
-		list = append(list, a, b, c, d)
+		e := base
+		e.start = wrong
+		list = append(list, a, b, c, d, e)
 	}
 	return list
 }
@@ -150,7 +174,7 @@ func TestAnswersAreNewMemory(t *testing.T) {
 	met := make([]bool, len(arguments{}.allLists()))
 	for _, a := range allArguments() {
 		given, m := a.guarded()
-		expected := arguments{g: copyOf(a.g), done: with(a.done), room: with(a.room), running: with(a.running), list: with(a.list), at: a.at, workers: a.workers}.allLists()
+		expected := arguments{g: copyOf(a.g), done: with(a.done), room: with(a.room), running: with(a.running), list: with(a.list), start: with(a.start), at: a.at, workers: a.workers}.allLists()
 		for i, list := range given.allLists() {
 			for k := range list {
 				list[k] = mark
