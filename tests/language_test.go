@@ -192,8 +192,9 @@ func calledName(n *ast.CallExpr) *ast.Ident {
 
 // TestWays looks for what the section "Ways" says of the chapters that are done:
 // bit sets of needs, one pass over an order, counts of open needs and a heap, a
-// struct with counters, a queue of events, and a search that goes into branches and
-// has a bound. The heap is the program's own, since it imports nothing.
+// struct with counters, a queue of events, a search that goes into branches and has a
+// bound, steps from delay to delay, and a state for each task. The heap and the steps
+// are the program's own, since it imports nothing and has no closures.
 func TestWays(t *testing.T) {
 	p := readProgram(t)
 	if !p.usesOperator("l1_graph.go", token.SHL) || !p.usesOperator("l1_graph.go", token.AND) {
@@ -213,6 +214,12 @@ func TestWays(t *testing.T) {
 	}
 	if !p.callsItself("l6_best.go", "bestOf") || !p.callsFunction("l6_best.go", "LeastTime") {
 		t.Error("the best schedule is not looked for in branches, or without a bound")
+	}
+	if !p.declaresStruct("l7_tries.go", "furtherTry") || !p.callsMethod("l7_tries.go", "next") {
+		t.Error("tries do not go through the delays")
+	}
+	if !p.declaresStruct("l8_failure.go", "outcomeStates") || !p.callsFunction("l8_failure.go", "TopOrder") {
+		t.Error("failures have no state for each task")
 	}
 }
 
@@ -254,6 +261,22 @@ func (p program) usesOperator(name string, operator token.Token) bool {
 	for i, file := range p.files {
 		for n := range ast.Preorder(file) {
 			if b, ok := n.(*ast.BinaryExpr); ok && p.names[i] == name && b.Op == operator {
+				return true
+			}
+		}
+	}
+	return false
+}
+
+// callsMethod reports whether a file calls a method with a name.
+func (p program) callsMethod(name string, method string) bool {
+	for i, file := range p.files {
+		for n := range ast.Preorder(file) {
+			call, ok := n.(*ast.CallExpr)
+			if !ok || p.names[i] != name {
+				continue
+			}
+			if f, ok := call.Fun.(*ast.SelectorExpr); ok && f.Sel.Name == method {
 				return true
 			}
 		}

@@ -81,6 +81,9 @@ func (a arguments) allLists() [][]int {
 	impl.LeastTime(a.g, a.room, a.workers)
 	impl.BestTime(a.g, a.room, a.workers)
 	impl.CountOrders(a.g)
+	// The tasks that run are those that fail here, too.
+	impl.CountOutcome(a.g, a.running, a.workers, impl.TaskDone)
+	impl.BlamedFor(a.g, a.running, a.at)
 	finished, _ := impl.FinishTask(a.g, a.done, a.at)
 	return [][]int{
 		impl.TopOrder(a.g), impl.StuckTasks(a.g), impl.AllNeeds(a.g, a.at), impl.AllUsers(a.g, a.at),
@@ -89,6 +92,7 @@ func (a arguments) allLists() [][]int {
 		impl.UsedUnits(a.g, a.running), impl.AdmitTasks(a.g, a.room, a.running, a.list, a.workers),
 		impl.PlanStarts(a.g, a.room, a.workers), impl.RunningAt(a.g, a.room, a.workers, a.start, a.at),
 		impl.OrderStarts(a.g, a.room, a.workers, a.list), impl.BestOrder(a.g, a.room, a.workers),
+		impl.Outcomes(a.g, a.running, a.workers), impl.CancelAt(a.g, a.room, a.workers, a.start, a.at),
 	}
 }
 
