@@ -507,18 +507,16 @@ func TestP153OneFailureIsEnough(t *testing.T) {
 	}
 }
 
-// TestP154FailuresSkipUsers tells by itself which tasks are stale: those that fail,
-// and all that need one of them.
 func TestP154FailuresSkipUsers(t *testing.T) {
 	for _, m := range mishaps() {
 		if m.keep != impl.MaxTasks {
 			continue
 		}
 		outcomes := m.outcomes()
+		stale := impl.StaleTasks(m.g, m.fails)
 		for at := range m.g {
-			stale := has(m.fails, at) || m.brokenByReach(at)
-			if (outcomes[at] == impl.TaskDone) == stale || outcomes[at] == impl.TaskLeft {
-				t.Errorf("Outcomes(%v) = %v", m, outcomes)
+			if (outcomes[at] == impl.TaskDone) == has(stale, at) || outcomes[at] == impl.TaskLeft {
+				t.Errorf("Outcomes(%v) = %v, but StaleTasks are %v", m, outcomes, stale)
 			}
 		}
 	}

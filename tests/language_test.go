@@ -193,8 +193,9 @@ func calledName(n *ast.CallExpr) *ast.Ident {
 // TestWays looks for what the section "Ways" says of the chapters that are done:
 // bit sets of needs, one pass over an order, counts of open needs and a heap, a
 // struct with counters, a queue of events, a search that goes into branches and has a
-// bound, steps from delay to delay, and a state for each task. The heap and the steps
-// are the program's own, since it imports nothing and has no closures.
+// bound, steps from delay to delay, a state for each task, a heap of users, and marks
+// that go forward in an order. The heaps and the steps are the program's own, since it
+// imports nothing and has no closures.
 func TestWays(t *testing.T) {
 	p := readProgram(t)
 	if !p.usesOperator("l1_graph.go", token.SHL) || !p.usesOperator("l1_graph.go", token.AND) {
@@ -220,6 +221,12 @@ func TestWays(t *testing.T) {
 	}
 	if !p.declaresStruct("l8_failure.go", "outcomeStates") || !p.callsFunction("l8_failure.go", "TopOrder") {
 		t.Error("failures have no state for each task")
+	}
+	if !p.declaresStruct("l9_fair.go", "userHeap") || !p.callsMethod("l9_fair.go", "settled") {
+		t.Error("fair shares have no heap of users")
+	}
+	if !p.callsFunction("l10_stale.go", "markStale") || !p.callsFunction("l10_stale.go", "TopOrder") {
+		t.Error("stale tasks have no marks that go forward")
 	}
 }
 

@@ -81,9 +81,11 @@ func (a arguments) allLists() [][]int {
 	impl.LeastTime(a.g, a.room, a.workers)
 	impl.BestTime(a.g, a.room, a.workers)
 	impl.CountOrders(a.g)
-	// The tasks that run are those that fail here, too.
+	// The tasks that run are those that fail, and those that change, here, too, the
+	// beginnings are inputs, and the list has stored keys.
 	impl.CountOutcome(a.g, a.running, a.workers, impl.TaskDone)
 	impl.BlamedFor(a.g, a.running, a.at)
+	impl.StaleTime(a.g, a.running)
 	finished, _ := impl.FinishTask(a.g, a.done, a.at)
 	return [][]int{
 		impl.TopOrder(a.g), impl.StuckTasks(a.g), impl.AllNeeds(a.g, a.at), impl.AllUsers(a.g, a.at),
@@ -93,6 +95,7 @@ func (a arguments) allLists() [][]int {
 		impl.PlanStarts(a.g, a.room, a.workers), impl.RunningAt(a.g, a.room, a.workers, a.start, a.at),
 		impl.OrderStarts(a.g, a.room, a.workers, a.list), impl.BestOrder(a.g, a.room, a.workers),
 		impl.Outcomes(a.g, a.running, a.workers), impl.CancelAt(a.g, a.room, a.workers, a.start, a.at),
+		impl.StaleTasks(a.g, a.running), impl.TaskKeys(a.g, a.start), impl.MissingKeys(a.g, a.start, a.list),
 	}
 }
 
