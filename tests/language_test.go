@@ -193,9 +193,10 @@ func calledName(n *ast.CallExpr) *ast.Ident {
 // TestWays looks for what the section "Ways" says of the chapters that are done:
 // bit sets of needs, one pass over an order, counts of open needs and a heap, a
 // struct with counters, a queue of events, a search that goes into branches and has a
-// bound, steps from delay to delay, a state for each task, a heap of users, and marks
-// that go forward in an order. The heaps and the steps are the program's own, since it
-// imports nothing and has no closures.
+// bound, steps from delay to delay, a state for each task, a heap of users, marks that
+// go forward in an order, a machine that goes from state to state by events, and
+// running sums. The heaps and the steps are the program's own, since it imports
+// nothing and has no closures.
 func TestWays(t *testing.T) {
 	p := readProgram(t)
 	if !p.usesOperator("l1_graph.go", token.SHL) || !p.usesOperator("l1_graph.go", token.AND) {
@@ -227,6 +228,12 @@ func TestWays(t *testing.T) {
 	}
 	if !p.callsFunction("l10_stale.go", "markStale") || !p.callsFunction("l10_stale.go", "TopOrder") {
 		t.Error("stale tasks have no marks that go forward")
+	}
+	if !p.declaresStruct("l11_log.go", "logState") || !p.callsMethod("l11_log.go", "after") {
+		t.Error("logs have no machine of states")
+	}
+	if !p.declaresStruct("l12_estimate.go", "timeSums") || !p.callsMethod("l12_estimate.go", "with") {
+		t.Error("estimates have no running sums")
 	}
 }
 

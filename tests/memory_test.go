@@ -17,6 +17,7 @@ type arguments struct {
 	running []int
 	list    []int
 	start   []int
+	log     []impl.Event
 	at      int
 	workers int
 }
@@ -24,10 +25,12 @@ type arguments struct {
 // memory has all memory of arguments, also behind the ends of their slices, and
 // what is to be in it.
 type memory struct {
-	tasks     []impl.Task
-	lists     [][]int
-	wantTasks []impl.Task
-	wantLists [][]int
+	tasks      []impl.Task
+	events     []impl.Event
+	lists      [][]int
+	wantTasks  []impl.Task
+	wantEvents []impl.Event
+	wantLists  [][]int
 }
 
 // guard returns a list with marked memory behind its end, which it keeps.
@@ -54,6 +57,9 @@ func (a arguments) guarded() (arguments, *memory) {
 	given.running = m.guard(a.running)
 	given.list = m.guard(a.list)
 	given.start = m.guard(a.start)
+	m.events = withEvents(a.log, begins(mark, mark), begins(mark, mark))
+	m.wantEvents = withEvents(m.events)
+	given.log = m.events[:len(a.log)]
 	return given, m
 }
 
@@ -64,7 +70,7 @@ func (m *memory) isWhole() bool {
 			return false
 		}
 	}
-	return sameGraphs(m.tasks, m.wantTasks)
+	return sameGraphs(m.tasks, m.wantTasks) && sameLogs(m.events, m.wantEvents)
 }
 
 // allLists returns the lists that all functions return, and calls the functions
@@ -81,11 +87,19 @@ func (a arguments) allLists() [][]int {
 	impl.LeastTime(a.g, a.room, a.workers)
 	impl.BestTime(a.g, a.room, a.workers)
 	impl.CountOrders(a.g)
+	impl.ValidLog(a.g, a.log)
+	impl.LogOf(a.g, a.room, a.workers, a.start)
+	impl.BusyTime(a.g, a.log)
+	impl.MostTogether(a.g, a.log)
+	impl.TimeLeft(a.g, a.done)
+	impl.ProgressOf(a.g, a.done)
 	// The tasks that run are those that fail, and those that change, here, too, the
-	// beginnings are inputs, and the list has stored keys.
+	// beginnings are inputs, and the list has stored keys, and earlier times.
 	impl.CountOutcome(a.g, a.running, a.workers, impl.TaskDone)
 	impl.BlamedFor(a.g, a.running, a.at)
 	impl.StaleTime(a.g, a.running)
+	impl.EstimateOf(a.list)
+	times, _ := impl.AddTime(a.list, a.workers)
 	finished, _ := impl.FinishTask(a.g, a.done, a.at)
 	return [][]int{
 		impl.TopOrder(a.g), impl.StuckTasks(a.g), impl.AllNeeds(a.g, a.at), impl.AllUsers(a.g, a.at),
@@ -96,6 +110,7 @@ func (a arguments) allLists() [][]int {
 		impl.OrderStarts(a.g, a.room, a.workers, a.list), impl.BestOrder(a.g, a.room, a.workers),
 		impl.Outcomes(a.g, a.running, a.workers), impl.CancelAt(a.g, a.room, a.workers, a.start, a.at),
 		impl.StaleTasks(a.g, a.running), impl.TaskKeys(a.g, a.start), impl.MissingKeys(a.g, a.start, a.list),
+		impl.DoneBy(a.g, a.log, a.at), times,
 	}
 }
 
@@ -139,10 +154,10 @@ func allArguments() []arguments {
 	return append(list, strangeArguments()...)
 }
 
-// arguments returns the timetable, with a time at which tasks run, and its tasks in
-// order.
+// arguments returns the timetable, with a time at which tasks run, its tasks in
+// order, and its log.
 func (table timetable) arguments() arguments {
-	return arguments{g: table.g, room: table.room, list: readyOneByOne(table.g), start: table.start, at: greatest(table.start), workers: table.workers}
+	return arguments{g: table.g, room: table.room, list: readyOneByOne(table.g), start: table.start, log: upToMaxClock(table.logByRanks()), at: greatest(table.start), workers: table.workers}
 }
 
 // strangeArguments returns arguments that are wrong in one list.
@@ -181,7 +196,7 @@ func TestAnswersAreNewMemory(t *testing.T) {
 	met := make([]bool, len(arguments{}.allLists()))
 	for _, a := range allArguments() {
 		given, m := a.guarded()
-		expected := arguments{g: copyOf(a.g), done: with(a.done), room: with(a.room), running: with(a.running), list: with(a.list), start: with(a.start), at: a.at, workers: a.workers}.allLists()
+		expected := arguments{g: copyOf(a.g), done: with(a.done), room: with(a.room), running: with(a.running), list: with(a.list), start: with(a.start), log: withEvents(a.log), at: a.at, workers: a.workers}.allLists()
 		for i, list := range given.allLists() {
 			for k := range list {
 				list[k] = mark

@@ -184,6 +184,9 @@ func checkNothingIsReady(t *testing.T, g []impl.Task, done []int) {
 	if len(impl.ReadyTasks(g, done)) != 0 || len(impl.ReadyOrder(g, done)) != 0 {
 		t.Errorf("ReadyTasks, ReadyOrder(%v, %v) = %v, %v", g, done, impl.ReadyTasks(g, done), impl.ReadyOrder(g, done))
 	}
+	if left, progress := impl.TimeLeft(g, done), impl.ProgressOf(g, done); left != -1 || progress != -1 {
+		t.Errorf("TimeLeft, ProgressOf(%v, %v) = %d, %d", g, done, left, progress)
+	}
 	for at := -1; at <= len(g) && at <= impl.MaxTasks; at++ {
 		checkNoTask(t, g, done, at)
 	}

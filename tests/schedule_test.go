@@ -552,6 +552,9 @@ func checkNoStarts(t *testing.T, s shop, start []int) {
 	if end := s.end(start); end != -1 {
 		t.Errorf("EndTime(%v, %v) = %d", s, start, end)
 	}
+	if log := (timetable{s, start}).log(); len(log) != 0 {
+		t.Errorf("LogOf(%v, %v) = %v", s, start, log)
+	}
 	for _, now := range []int{-1, 0, 1, 2, 5, 20, 200, 219, far, -far} {
 		if running := s.running(start, now); len(running) != 0 {
 			t.Errorf("RunningAt(%v, %v, %d) = %v", s, start, now, running)
