@@ -235,6 +235,12 @@ func TestWays(t *testing.T) {
 	if !p.declaresStruct("l12_estimate.go", "timeSums") || !p.callsMethod("l12_estimate.go", "with") {
 		t.Error("estimates have no running sums")
 	}
+	if !p.callsFunction("l13_stage.go", "nextStage") || !p.callsFunction("l13_stage.go", "openNeeds") {
+		t.Error("stages have no levels by counts")
+	}
+	if !p.callsFunction("l14_deadline.go", "leastWorkers") || !p.usesOperator("l14_deadline.go", token.QUO) {
+		t.Error("deadlines have no search over workers that halves their numbers")
+	}
 }
 
 // callsItself reports whether a function or method of a file calls itself.

@@ -93,6 +93,11 @@ func (a arguments) allLists() [][]int {
 	impl.MostTogether(a.g, a.log)
 	impl.TimeLeft(a.g, a.done)
 	impl.ProgressOf(a.g, a.done)
+	impl.StagesOf(a.g)
+	impl.UselessNeeds(a.g)
+	impl.WithoutUseless(a.g)
+	impl.MeetsDeadline(a.g, a.room, a.workers, a.start, a.at)
+	impl.WorkersFor(a.g, a.room, a.at)
 	// The tasks that run are those that fail, and those that change, here, too, the
 	// beginnings are inputs, and the list has stored keys, and earlier times.
 	impl.CountOutcome(a.g, a.running, a.workers, impl.TaskDone)
@@ -111,6 +116,7 @@ func (a arguments) allLists() [][]int {
 		impl.Outcomes(a.g, a.running, a.workers), impl.CancelAt(a.g, a.room, a.workers, a.start, a.at),
 		impl.StaleTasks(a.g, a.running), impl.TaskKeys(a.g, a.start), impl.MissingKeys(a.g, a.start, a.list),
 		impl.DoneBy(a.g, a.log, a.at), times,
+		impl.StageOf(a.g), impl.LatestStarts(a.g, a.at), impl.LateTasks(a.g, a.room, a.workers, a.start, a.at),
 	}
 }
 

@@ -560,6 +560,7 @@ func checkNoStarts(t *testing.T, s shop, start []int) {
 			t.Errorf("RunningAt(%v, %v, %d) = %v", s, start, now, running)
 		}
 	}
+	checkNoDeadline(t, s, start)
 }
 
 func TestSchedulesRefuseGraphs(t *testing.T) {
