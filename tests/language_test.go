@@ -6,6 +6,7 @@ import (
 	"go/token"
 	"go/types"
 	"path/filepath"
+	"strings"
 	"testing"
 )
 
@@ -194,9 +195,10 @@ func calledName(n *ast.CallExpr) *ast.Ident {
 // bit sets of needs, one pass over an order, counts of open needs and a heap, a
 // struct with counters, a queue of events, a search that goes into branches and has a
 // bound, steps from delay to delay, a state for each task, a heap of users, marks that
-// go forward in an order, a machine that goes from state to state by events, and
-// running sums. The heaps and the steps are the program's own, since it imports
-// nothing and has no closures.
+// go forward in an order, a machine that goes from state to state by events, running
+// sums, levels by counts, a search that halves, parts of texts and a builder, and
+// commands. The heaps, the steps, the parts and the builder are the program's own, and
+// commands stand in a switch, since it imports nothing and has no closures and no maps.
 func TestWays(t *testing.T) {
 	p := readProgram(t)
 	if !p.usesOperator("l1_graph.go", token.SHL) || !p.usesOperator("l1_graph.go", token.AND) {
@@ -241,6 +243,38 @@ func TestWays(t *testing.T) {
 	if !p.callsFunction("l14_deadline.go", "leastWorkers") || !p.usesOperator("l14_deadline.go", token.QUO) {
 		t.Error("deadlines have no search over workers that halves their numbers")
 	}
+	if !p.callsFunction("l15_text.go", "partsOf") || !p.declaresStruct("l15_text.go", "textBuilder") {
+		t.Error("texts have no parts, or no builder")
+	}
+	if !p.declaresStruct("l16_session.go", "session") || !p.switchesOver("l16_session.go", "finish", "plan") || !p.switchesOver("l16_session.go", "ready", "left", "chain") {
+		t.Error("sessions do not tell commands apart by their words")
+	}
+}
+
+// switchesOver reports whether a file has a switch whose cases are some texts.
+func (p program) switchesOver(name string, cases ...string) bool {
+	for i, file := range p.files {
+		for n := range ast.Preorder(file) {
+			s, ok := n.(*ast.SwitchStmt)
+			if ok && p.names[i] == name && sameLines(casesOf(s), cases...) {
+				return true
+			}
+		}
+	}
+	return false
+}
+
+// casesOf returns the texts of the cases of a switch, in order.
+func casesOf(s *ast.SwitchStmt) []string {
+	list := []string{}
+	for _, clause := range s.Body.List {
+		for _, x := range clause.(*ast.CaseClause).List {
+			if lit, ok := x.(*ast.BasicLit); ok && lit.Kind == token.STRING {
+				list = append(list, strings.Trim(lit.Value, `"`))
+			}
+		}
+	}
+	return list
 }
 
 // callsItself reports whether a function or method of a file calls itself.

@@ -98,6 +98,8 @@ func (a arguments) allLists() [][]int {
 	impl.WithoutUseless(a.g)
 	impl.MeetsDeadline(a.g, a.room, a.workers, a.start, a.at)
 	impl.WorkersFor(a.g, a.room, a.at)
+	impl.FormatGraph(a.g)
+	impl.ChartLines(a.g, a.room, a.workers, a.start)
 	// The tasks that run are those that fail, and those that change, here, too, the
 	// beginnings are inputs, and the list has stored keys, and earlier times.
 	impl.CountOutcome(a.g, a.running, a.workers, impl.TaskDone)
